@@ -6,10 +6,9 @@ import (
 	"narrows/api"
 	"narrows/bid"
 	"narrows/deal"
-	"narrows/disk"
 	"narrows/field"
-	"narrows/journal"
 	"narrows/mss"
+	"narrows/party"
 	"narrows/plan"
 )
 
@@ -67,7 +66,7 @@ type page struct {
 // memory is what a user knows: of its deals, all that its journal tells.
 type memory struct {
 	person
-	disk  *disk.Disk
+	diary party.Diary
 	pages []page
 }
 
@@ -81,16 +80,10 @@ func (m *memory) acted() []page {
 	return slices.DeleteFunc(slices.Clone(m.pages), func(p page) bool { return p.Act == none })
 }
 
-// write appends the records, all of them or none; they are not sure.
-func (m *memory) write(records ...[]byte) bool {
-	return journal.Append(m.disk, records...) == api.OK
-}
-
 // reload forgets all that the journal does not tell.
 func (m *memory) reload() {
 	m.pages = nil
-	records, _ := journal.Load(m.disk)
-	for _, record := range records {
+	for _, record := range m.diary.Records() {
 		m.learn(record)
 	}
 }
