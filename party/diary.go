@@ -1,4 +1,4 @@
-// Package party is what users and routers are alike in: a journal that outlasts falls, and how they look at both sides.
+// Package party is what parties are alike in: how users, routers and the relayer look at a side, and the journal of users and routers, which outlasts falls.
 package party
 
 import (

@@ -170,6 +170,36 @@ func TestSend(t *testing.T) {
 	}
 }
 
+// A party that watches one side sends as one that sees both: nothing beside a false, and Nonces that go on.
+func TestOwn(t *testing.T) {
+	c := chain.New(1, 1000)
+	want := api.Tx{From: 4, Kind: Fulfil, Inv: trade("a"), Var: api.Var{Amount: wide.Of(9), Expiry: 1010}, Fee: wide.Of(1), Sig: "sig"}
+	v := Watch(4, c)
+	if v.Time() != 1000 || v.State.Side != Receiving || v.Rich() != true {
+		t.Error("it sees the side otherwise")
+	}
+	for nonce := range 3 {
+		other := want
+		other.From, other.Nonce = 2, 77
+		got, ok := v.Own(other)
+		if want.Nonce = nonce; !ok || got != want {
+			t.Errorf("Own() = %#v, %t", got, ok)
+		}
+	}
+	c.Submit(want)
+	if got, ok := v.Own(want); ok || got != (api.Tx{}) {
+		t.Errorf("it waits: %#v, %t", got, ok)
+	}
+	want.Kind = Prepare
+	if got, ok := v.Own(want); !ok || got.Nonce != 3 {
+		t.Errorf("what did not go has no Nonce: %#v", got)
+	}
+	none := Watch(4, nil)
+	if got, ok := none.Own(want); !ok || got.Nonce != 0 || none.Rich() || none.Is("key", Prepared) {
+		t.Errorf("nobody made it: %#v", got)
+	}
+}
+
 // Lock counts what it sends; TakeBack sends only what is past and prepared.
 func TestLock(t *testing.T) {
 	s, r := chain.New(0, 1000), chain.New(1, 1000)

@@ -66,11 +66,11 @@ type Sight struct {
 
 // See is what that party sees of both sides as they are now.
 func See(party int, s *chain.Chain, r *chain.Chain) Sight {
-	return Sight{Views: [sides]View{view(party, s), view(party, r)}}
+	return Sight{Views: [sides]View{Watch(party, s), Watch(party, r)}}
 }
 
-// view is what a party sees of a side as it is now.
-func view(party int, c *chain.Chain) View {
+// Watch is what that party sees of a side as it is now.
+func Watch(party int, c *chain.Chain) View {
 	return View{Chain: c, State: c.State(), party: party, next: c.Next(party)}
 }
 
@@ -94,15 +94,22 @@ func (v *View) nonce() int {
 	return nonce
 }
 
-// Send sends a transaction of the party's to a side, and tells whether it did: not if one of that transfer and kind waits there.
-func (s *Sight) Send(side int, t api.Tx) bool {
-	v := &s.Views[side]
+// Own is a transaction as the party sends it there, and true; nothing and false, if one of that transfer and kind of the party's waits there.
+func (v *View) Own(t api.Tx) (api.Tx, bool) {
 	if v.Waits(v.party, deal.Key(t.Inv), t.Kind) {
-		return false
+		return api.Tx{}, false
 	}
 	t.From, t.Nonce = v.party, v.nonce()
-	s.Sends = append(s.Sends, api.Send{Side: side, Tx: t})
-	return true
+	return t, true
+}
+
+// Send sends a transaction of the party's to a side, and tells whether it did: not if one of that transfer and kind waits there.
+func (s *Sight) Send(side int, t api.Tx) bool {
+	own, ok := s.Views[side].Own(t)
+	if ok {
+		s.Sends = append(s.Sends, api.Send{Side: side, Tx: own})
+	}
+	return ok
 }
 
 // Lock sends a transfer of which nothing is on a side there, till it is past there, or was sent twice; and is how often it was sent, this time too.
